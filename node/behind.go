@@ -63,8 +63,7 @@ func (n *Node) behind(t *turn) {
 	n.report()
 	n.reignOn(t)
 	if n.Leads() {
-		far, whole := n.lane.Mark(), n.lane.Whole()
-		t.replies = append(t.replies, n.Settle(n.ledger, n.mark(), far, whole)...)
+		t.replies = append(t.replies, n.settle()...)
 	}
 	t.replies = append(t.replies, n.Fetch(n.vault, n.ledger)...)
 	n.last()
@@ -193,6 +192,16 @@ func count(reports []api.Reach, number int) int {
 		}
 	}
 	return have
+}
+
+// settle answers requests that are far enough. Where the site isn't the primary one any more, nobody tells how far they are at the other one: what still waits when all is whole here would wait for ever.
+func (n *Node) settle() []api.Reply {
+	site := n.mark()
+	replies := n.Settle(n.ledger, site, n.lane.Mark(), n.lane.Whole())
+	if n.lane == nil && site.At == n.ledger.Last() && len(site.Holes) == 0 {
+		replies = append(replies, n.Settle(nil, api.Reach{}, api.Spot{}, api.Reach{})...)
+	}
+	return replies
 }
 
 // reignOn gives a primary site's leader its lane, and proposes what follows of what it knows of epochs and of the other site.

@@ -298,6 +298,40 @@ func TestP23_2Lost(t *testing.T) {
 	}
 }
 
+// P27.4 asks that no request waits for ever: at a site that isn't the primary one any more nobody hears how far it is at the other one.
+func TestP23_2Deposed(t *testing.T) {
+	x := ruled(t, conf)
+	n := x.ask(0, put("a", "aa", 1, api.ModeSync, 0))
+	async := x.ask(0, put("b", "bb", 2, api.ModeAsync, 0))
+	deaf := func() { // site 0 doesn't hear how far it is at the other one
+		for range 12 {
+			x.tick(0, 1, 2, 3, 4, 5)
+			for len(x.letters) > 0 {
+				l := x.letters[0]
+				x.letters = x.letters[1:]
+				if l.To == api.Witness {
+					x.witness(l)
+				} else if l.From < 3 || l.To >= 3 || !isKind(api.MailShipped)(l) {
+					x.did(x.nodes[l.To].Take(l))
+				}
+			}
+		}
+	}
+	deaf()
+	x.waits("nobody said that the other site has it", n)
+	x.answered("its own site has it", async, api.OK, 3, 1)
+	x.ask(1, api.Ask{Kind: api.AskReign})
+	lead := x.leader(0)
+	deaf()
+	if x.leader(0) != lead || x.nodes[lead].Ledger().Last() != (api.Spot{N: 4, Epoch: 2}) {
+		t.Fatal("the other site isn't the primary one", x.nodes[lead].Ledger().Last())
+	}
+	x.answered("nobody knows", n, api.ErrUnsure, 0, 0)
+	if w := x.nodes[lead].Waits(); w != 0 {
+		t.Error(w)
+	}
+}
+
 // DOC.md's example 9: a bit turns.
 func TestP23_2Corrupt(t *testing.T) {
 	x := ruled(t, conf)
