@@ -131,18 +131,26 @@ func (n *Node) compact() {
 	n.base = n.done
 }
 
-// hold lets the vault hold what the ledger needs, and what it may need when its entries are done.
+// hold lets the vault hold what the ledger needs, and what it may need when its entries are done: of a site that isn't the primary one those are shipped ones, too, or else a loss of all its power would take their chunks away.
 func (n *Node) hold() {
 	list := n.ledger.Needs()
 	for index := n.done + 1; index <= n.part.Last(); index++ {
 		entry, _ := n.part.Entry(index)
 		if c, e := commandOf(entry); e == api.OK {
-			list = append(list, c.Op.Sheet.Hashes...)
+			list = append(list, hashesOf(append(c.Ops, c.Op)...)...)
 		}
 	}
 	n.vault.Hold(list...)
 	n.vault.Free(n.held...)
 	n.held = list
+}
+
+func hashesOf(ops ...api.Op) []string {
+	var list []string
+	for _, o := range ops {
+		list = append(list, o.Sheet.Hashes...)
+	}
+	return list
 }
 
 // report makes its own report anew.

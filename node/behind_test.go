@@ -218,6 +218,26 @@ func TestP23_1Holds(t *testing.T) {
 	}
 }
 
+// P3 asks that a loss of all power at a site takes no chunks away, also of what was shipped there.
+func TestP23_1HoldsShipped(t *testing.T) {
+	x := ruled(t, conf)
+	n := x.ask(0, put("a", long("a", 100), 1, api.ModeSync, 0))
+	x.rounds(16)
+	x.answered("sync", n, api.OK, 2, 1)
+	for _, id := range []int{3, 4, 5} {
+		x.crash(id)
+		if x.nodes[id].Applied() > 0 {
+			t.Fatal("it begins with a snapshot")
+		}
+		for range 5 {
+			x.nodes[id].Tick(0)
+		}
+		if len(x.drives[id].Names("b.")) != 2 {
+			t.Error(id, "the chunks of entries that aren't done were swept")
+		}
+	}
+}
+
 // P23.2 to P23.4: the modes, while the other site hears nothing, then something, then all.
 func TestP23_2Modes(t *testing.T) {
 	x := ruled(t, conf)
