@@ -269,6 +269,11 @@ func TestP27_2UnfairWorlds(t *testing.T) {
 	if n := calm.Fair(conf, nil); n != -1 {
 		t.Error("no world", n)
 	}
+	for _, acts := range [][]api.Act{nil, {tick(0, 0)}} {
+		if n := calm.Fair(api.Conf{}, made(t, conf), acts...); n != -1 {
+			t.Error("no configuration", n)
+		}
+	}
 	w := made(t, conf)
 	do(t, w, crash(3))
 	for _, acts := range [][]api.Act{nil, {fuse(0, -1)}, {tick(0, 0)}, {tick(0, 0), start(3)}, {start(3), crash(3)}} {
@@ -346,8 +351,17 @@ func TestP27_3Calm(t *testing.T) {
 			t.Error(what)
 		}
 	}
-	if !calm.Calm(w) {
-		t.Error("asking changes something")
+	v, _ := w.Copy()
+	do(t, v, tick((lead+1)%3, 0))
+	for v.Mails() > 1 {
+		do(t, v, api.Act{Kind: api.ActDrop})
+	}
+	if calm.Calm(v) {
+		t.Error("one letter is on its way")
+	}
+	do(t, v, api.Act{Kind: api.ActDrop})
+	if !calm.Calm(v) || !calm.Calm(w) {
+		t.Error("no letter is, and asking changes nothing")
 	}
 }
 

@@ -303,9 +303,13 @@ func TestP22_4Missing(t *testing.T) {
 	change(t, l, api.OpPut, 15, "b", "other")
 	says(t, "another sheet", d.Fetch(v, l), api.Reply{Ask: 1, Err: api.ErrMissing, At: at(3, 1)})
 	waits(t, d, 0)
+	d = restores(t, l, "b")
+	change(t, l, api.OpDrop, 16, "b", "")
+	change(t, l, api.OpPut, 17, "b", "oTHER")
+	says(t, "another sheet of as many bytes", d.Fetch(v, l), api.Reply{Ask: 0, Err: api.ErrMissing, At: at(9, 1)})
 	d = restores(t, l, "a")
 	says(t, "no vault", d.Fetch(nil, l))
-	says(t, "no vault, no ledger", d.Fetch(nil, nil), api.Reply{Ask: 0, Err: api.ErrMissing, At: at(9, 1)})
+	says(t, "no vault, no ledger", d.Fetch(nil, nil), api.Reply{Ask: 0, Err: api.ErrMissing, At: at(11, 1)})
 }
 
 // P22.5: what is waited for; all are dropped.

@@ -475,6 +475,16 @@ func TestP12_5Copy(t *testing.T) {
 	if !slices.Equal(c.Names(), []string{"b", "c"}) || len(l.Names()) != 0 {
 		t.Error(c.Names(), l.Names())
 	}
+	for i := range 6 { // each one's operations have room of their own
+		x := l.Copy()
+		y := x.Copy()
+		does(t, x, "one", put(3, 0, 5, 3+i, "x", ""), api.OK, 6+i, 3)
+		does(t, y, "other", put(3, 0, 6, 3+i, "y", ""), api.OK, 6+i, 3)
+		if a, b := x.Ops()[5+i], y.Ops()[5+i]; a.Name != "x" || b.Name != "y" {
+			t.Error("both have one memory", a, b)
+		}
+		does(t, l, "more", put(3, 0, 7, 3+i, "l"+string(rune('0'+i)), ""), api.OK, 6+i, 3)
+	}
 	does(t, l, "shipped", ship(4, 1, 1, 1, reignOp(2, 4, 1)), api.OK, 2, 4)
 	if len(c.Lost()) != 1 || len(c.Ops()) != 5 || c.Fence() != 3 {
 		t.Error("the copy lost something")

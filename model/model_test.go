@@ -141,6 +141,9 @@ func TestP26_1Denied(t *testing.T) {
 			t.Error(i, "another one took that place")
 		}
 	}
+	bare := model.New()
+	sees(t, "a put of no bytes", bare, api.OK, reign(1, 1, 0), put(2, 1, 0, 1, "a", ""))
+	sees(t, "a drop of that", bare, api.ErrDenied, reign(1, 1, 0), drop(2, 1, 0, 1, "a"))
 	m := model.New()
 	sees(t, "first", m, api.OK, reign(1, 1, 0), reign(2, 3, 1))
 	sees(t, "another place ahead", m, api.ErrDenied, reign(1, 2, 0), reign(2, 3, 1))

@@ -215,7 +215,6 @@ func (n *Node) settle() []api.Reply {
 // reignOn gives a primary site's leader its lane, and proposes what follows of what it knows of epochs and of the other site.
 func (n *Node) reignOn(t *turn) {
 	if !n.Leads() {
-		n.lane = nil
 		return
 	}
 	holder, fence := n.ledger.Holder(), n.ledger.Fence()

@@ -6,7 +6,10 @@ import (
 
 	"redoubt/api"
 	"redoubt/carve"
+	"redoubt/deed"
+	"redoubt/disk"
 	"redoubt/keep"
+	"redoubt/node"
 	"redoubt/sha"
 )
 
@@ -183,6 +186,107 @@ func TestP23_3Snapshots(t *testing.T) {
 	}
 }
 
+// Behind each call: entries that a snapshot takes the place of are as many as Snap says, no less and no more than came at one time.
+func TestP23_3Snap(t *testing.T) {
+	c := conf
+	c.Snap = 3
+	x := newNet(t, c)
+	base := [6]int{}
+	steps := 0
+	check := func(id int) {
+		t.Helper()
+		_, kept, _ := keep.Open(x.drives[id].Copy())
+		if kept.Base != base[id] && kept.Base < base[id]+3 || x.nodes[id].Applied() >= kept.Base+3 {
+			t.Fatal(id, "base", base[id], kept.Base, "done", x.nodes[id].Applied())
+		}
+		if kept.Base != base[id] {
+			steps++
+		}
+		base[id] = kept.Base
+	}
+	for i := range 60 {
+		x.tick(0, 1, 2)
+		if i > 5 {
+			for id := range 3 {
+				if x.nodes[id].Leads() {
+					x.did(x.nodes[id].Ask(i, api.Ask{Kind: api.AskList}))
+				}
+			}
+		}
+		for len(x.letters) > 0 {
+			l := x.letters[0]
+			x.letters = x.letters[1:]
+			if l.To < 3 {
+				x.did(x.nodes[l.To].Take(l))
+				check(l.To)
+			}
+		}
+	}
+	if steps < 20 {
+		t.Error("few snapshots", steps)
+	}
+}
+
+// Behind each call: a snapshot that comes is the node's ledger at once, and it goes on from there.
+func TestP23_3SnapshotCame(t *testing.T) {
+	x := ruled(t, conf)
+	x.put(0, "a", 1)
+	l := x.nodes[0].Ledger()
+	n, e := node.Open(conf, 1, disk.New())
+	if e != api.OK {
+		t.Fatal(e)
+	}
+	_, letters := n.Take(letter(t, 0, 1, api.Mail{Kind: api.MailLay, Term: 5, Index: 40, Prev: 4, Data: l.Pack()}))
+	if _, mails := read(t, letters, api.MailFed); len(mails) != 1 || !mails[0].Good || mails[0].Index != 40 {
+		t.Error(mails)
+	}
+	if w := n.Whole(); n.Ledger().Pack() != l.Pack() || n.Applied() != 40 || w.At != (api.Spot{N: 2, Epoch: 1}) || !slices.Equal(w.Holes, []int{2}) || len(n.Missing()) != 1 {
+		t.Error(n.Applied(), w, len(n.Missing()))
+	}
+	w := n.Whole()
+	w.Holes[0] = 9
+	if n.Whole().Holes[0] != 2 {
+		t.Error("what is answered is new memory")
+	}
+	more := api.Command{Kind: api.CmdReign, Epoch: 3, Site: 1}
+	n.Take(letter(t, 0, 1, api.Mail{Kind: api.MailFeed, Term: 5, Index: 40, Prev: 4, Commit: 41, Entries: []api.Entry{{Term: 5, Data: deed.Pack(more)}}}))
+	for range 3 {
+		n.Take(letter(t, 0, 1, api.Mail{Kind: api.MailFeed, Term: 5, Index: 41, Prev: 5, Commit: 41}))
+		if n.Applied() != 41 || n.Ledger().Last() != (api.Spot{N: 3, Epoch: 3}) {
+			t.Error(n.Applied(), n.Ledger().Last())
+		}
+	}
+}
+
+// Behind each call: what is proposed of itself lasts ahead of its letters, and is proposed once.
+func TestP23_3Reigns(t *testing.T) {
+	x := newNet(t, conf)
+	x.rounds(4)
+	lead := x.leader(0)
+	last := func() int {
+		_, kept, _ := keep.Open(x.drives[lead].Copy())
+		return kept.Base + len(kept.Entries)
+	}
+	before := last()
+	grant := letter(t, 6, lead, api.Mail{Kind: api.MailGrant, Epoch: 1})
+	_, letters := x.nodes[lead].Take(grant)
+	to, mails := read(t, letters, api.MailFeed)
+	if len(to) != 2 || len(letters) != 2 || len(mails[0].Entries) != 1 {
+		t.Fatal(to, mails)
+	}
+	if c, e := deed.Parse(mails[0].Entries[0].Data); e != api.OK || c.Kind != api.CmdReign || c.Epoch != 1 || c.Site != 0 {
+		t.Error(c, e)
+	}
+	if last() != before+1 {
+		t.Error("it doesn't last")
+	}
+	x.nodes[lead].Take(grant)
+	x.nodes[lead].Tick(0)
+	if last() != before+1 {
+		t.Error("proposed twice")
+	}
+}
+
 // deliver2 is deliver, but for a node that hears nothing.
 func (x *net) deliver2(away int) {
 	for len(x.letters) > 0 {
@@ -350,6 +454,39 @@ func TestP23_2Deposed(t *testing.T) {
 	if w := x.nodes[lead].Waits(); w != 0 {
 		t.Error(w)
 	}
+}
+
+// A site that is the primary one no more answers what is far enough there.
+func TestP23_2DeposedAsync(t *testing.T) {
+	x := ruled(t, conf)
+	n := x.ask(0, put("a", "aa", 1, api.ModeAsync, 0))
+	sync := x.ask(0, put("b", "bb", 2, api.ModeSync, 0))
+	play := func(rounds int) { // at site 0 nobody hears how far the others are whole
+		for range rounds {
+			x.tick(0, 1, 2, 3, 4, 5)
+			for len(x.letters) > 0 {
+				l := x.letters[0]
+				x.letters = x.letters[1:]
+				if l.To == api.Witness {
+					x.witness(l)
+				} else if l.To >= 3 || !isKind(api.MailWhole)(l) {
+					x.did(x.nodes[l.To].Take(l))
+				}
+			}
+		}
+	}
+	play(12)
+	x.ask(1, api.Ask{Kind: api.AskReign})
+	play(12)
+	lead := x.leader(0)
+	if x.nodes[lead].Ledger().Last() != (api.Spot{N: 4, Epoch: 2}) {
+		t.Fatal(x.nodes[lead].Ledger().Last())
+	}
+	x.waits("nobody reported", n)
+	x.waits("nobody reported", sync)
+	x.rounds(3)
+	x.answered("async", n, api.OK, 2, 1)
+	x.answered("sync", sync, api.ErrUnsure, 0, 0)
 }
 
 // DOC.md's example 9: a bit turns.

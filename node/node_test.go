@@ -126,6 +126,9 @@ func TestP23_2Refused(t *testing.T) {
 				bad.Client = client
 				says("client", id, bad, api.ErrArg)
 			}
+			if a.Client = 7; id == follower {
+				says("the last client", id, a, api.ErrFollower)
+			}
 			named, changes := kind == 1 || kind == 2 || kind == 4, kind <= 2
 			for _, name := range []string{"", long("n", 17)} {
 				if bad := a; named {
@@ -495,6 +498,7 @@ func TestP23_3Whole(t *testing.T) {
 	x.waits("a hole", n)
 	whole(mates[1], api.Spot{N: 2, Epoch: 2})
 	x.waits("another epoch", n)
+	whole(mates[0], api.Spot{N: 1, Epoch: 1})
 	whole(mates[1], api.Spot{N: 1, Epoch: 1})
 	x.waits("less", n)
 	whole(4, api.Spot{N: 2, Epoch: 1})
@@ -503,7 +507,25 @@ func TestP23_3Whole(t *testing.T) {
 	x.waits("itself", n)
 	whole(mates[1], api.Spot{N: 2, Epoch: 1})
 	x.answered("two of three", n, api.OK, 2, 1)
+	// Two reports are enough, also where the third one tells of a place that the ledger hasn't.
+	n = x.ask(0, put("b", "other", 2, 0, 0))
+	whole(mates[1], api.Spot{N: 9, Epoch: 9})
+	for _, l := range x.letters {
+		if l.To == mates[0] {
+			for _, back := range second(x.nodes[mates[0]].Take(l)) {
+				x.replies = append(x.replies, first(x.nodes[lead].Take(back))...)
+			}
+		}
+	}
+	x.letters = nil
+	x.waits("one report", n)
+	whole(mates[0], api.Spot{N: 3, Epoch: 1}, 3)
+	x.waits("a hole", n)
+	whole(mates[0], api.Spot{N: 3, Epoch: 1})
+	x.answered("two reports", n, api.OK, 3, 1)
 }
+
+func second(_ []api.Reply, letters []api.Letter) []api.Letter { return letters }
 
 func first(replies []api.Reply, _ []api.Letter) []api.Reply { return replies }
 

@@ -364,6 +364,8 @@ func TestP13_3Feed(t *testing.T) {
 		{api.Mail{Index: 0, Entries: x(9, 9)}, true, 2, 2, 0, []int{1, 1, 2, 3, 3}},
 		{api.Mail{Index: 1, Prev: 9, Entries: x(9)}, true, 2, 2, 0, []int{1, 1, 2, 3, 3}},
 		{api.Mail{Index: 0, Prev: 0}, true, 0, 2, 0, []int{1, 1, 2, 3, 3}},
+		{api.Mail{Index: 2, Prev: 9, Commit: 5}, true, 2, 2, 0, []int{1, 1, 2, 3, 3}},
+		{api.Mail{Index: 5, Prev: 3, Entries: x(3, 3, 3, 3, 3, 3, 3, 3)}, true, 13, 2, 6, []int{1, 1, 2, 3, 3, 3, 3, 3, 3, 3, 3, 3, 3}},
 		{api.Mail{Index: 1, Prev: 1, Commit: 5}, true, 1, 2, 0, []int{1, 1, 2, 3, 3}},
 		{api.Mail{Index: 1, Prev: 1, Entries: x(1, 2, 3), Commit: 9}, true, 4, 4, 0, []int{1, 1, 2, 3, 3}},
 		{api.Mail{Index: 0, Prev: 0, Entries: x(7, 8, 9), Commit: 9}, true, 3, 3, 3, []int{1, 1, 9}},
@@ -420,6 +422,14 @@ func TestP13_3Lay(t *testing.T) {
 			t.Error(i, "the clock doesn't begin anew")
 		}
 	}
+}
+
+// P13.3: a snapshot of as many bytes as may be.
+func TestP13_3LayLong(t *testing.T) {
+	p := fresh(t, 1)
+	snap := strings.Repeat("s", 100000)
+	says(t, "long", p.Take(2, api.Mail{Kind: api.MailLay, Term: 1, Index: 3, Prev: 1, Data: snap}), to(2, fed(1, 3)))
+	keeps(t, "long", p, api.Kept{Term: 1, Vote: -1, Base: 3, BaseTerm: 1, Snap: snap})
 }
 
 // P13.3: what a leader does when a node has its entries: it agrees, and feeds on.
@@ -577,6 +587,14 @@ func TestP13_6Copy(t *testing.T) {
 	}
 	if s, ok := p.Save(); !ok || s.From != 4 || len(s.Entries) != 2 {
 		t.Error(s, ok)
+	}
+	a := made(t, 1, api.Kept{Term: 9, Vote: -1, Entries: append(make([]api.Entry, 0, 9), entries(1, 2, 3)...)})
+	b := a.Copy()
+	for i, q := range []*poll.Poll{a, b} {
+		q.Take(0, api.Mail{Kind: api.MailFeed, Term: 9, Index: 1, Prev: 1, Entries: []api.Entry{{Term: 8, Data: string(rune('0' + i))}}})
+	}
+	if e, _ := a.Entry(2); e.Data != "0" {
+		t.Error("both have one memory", e)
 	}
 	f := fresh(t, 1)
 	f.Tick(0)

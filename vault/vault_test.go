@@ -230,6 +230,12 @@ func TestP10_2Down(t *testing.T) {
 	if hash, e := v.Put("abc"); hash != "" || e != api.ErrDown {
 		t.Error("what is there", e)
 	}
+	d = disk.New()
+	v = opened(t, d, 0)
+	down(d)
+	if hash, e := v.Put("abc"); hash != "" || e != api.ErrDown {
+		t.Error("ErrDown stands ahead of ErrQuota", e)
+	}
 }
 
 // P10.3: what is there, what isn't, what is turned.

@@ -129,6 +129,7 @@ func TestP9_1NoPart(t *testing.T) {
 		tells(t, name, files{name: one}, "", nil, nil)
 		tells(t, name, files{name: one, "log.3": sealed(begins("c"), "s")}, "c", []string{"s"}, []string{"log.3"})
 	}
+	tells(t, "behind the greatest number", files{"log.999999999": one, "log.1000000000": sealed(goesOn(len(one)), "r3")}, "b", []string{"r1", "r2"}, []string{"log.999999999"})
 	tells(t, "a gap", files{"log.7": one, "log.9": sealed(goesOn(len(one)), "r3")}, "b", []string{"r1", "r2"}, []string{"log.7"})
 }
 
