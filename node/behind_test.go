@@ -232,7 +232,9 @@ func TestP23_3SnapshotCame(t *testing.T) {
 	x := ruled(t, conf)
 	x.put(0, "a", 1)
 	l := x.nodes[0].Ledger()
-	n, e := node.Open(conf, 1, disk.New())
+	c := conf
+	c.Snap = 64
+	n, e := node.Open(c, 1, disk.New())
 	if e != api.OK {
 		t.Fatal(e)
 	}
